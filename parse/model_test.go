@@ -116,12 +116,13 @@ func (a *answer) descr(h zip.Head, rest string, isBig bool) int {
 	if isBig {
 		size = 24
 	}
-	if len(rest) < size {
-		return 0
-	}
 	switch {
+	case len(rest) < 8:
+		return 0
 	case rest[4:8] != h.Descr()[4:8]:
 		a.err = api.ErrSum
+	case len(rest) < size:
+		return 0
 	case rest[:size] != h.Descr():
 		a.err = api.ErrForm
 	default:

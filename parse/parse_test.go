@@ -525,24 +525,37 @@ func TestStreamErrors(t *testing.T) {
 	}
 }
 
-// P14.2: a descriptor's sum is another one, whatever else is wrong in it.
+// cutDescr: the error, at each cut of a descriptor of 16 bytes behind what is right: first once so many of its bytes are there.
+func cutDescr(t *testing.T, what, ahead, descr string, first int, err api.Errno) {
+	t.Helper()
+	for n := range len(descr) + 1 {
+		want := api.OK
+		if n >= first {
+			want = err
+		}
+		fails(t, what, ahead+descr[:n], want, 1, true, "text")
+	}
+	fails(t, what, ahead+descr+"more", err, 1, true, "text")
+}
+
+// P14.2: a descriptor's sum is another one, whatever else is wrong in it: it is told once the sum is there. What else is wrong is told once all is there.
 func TestSum(t *testing.T) {
 	whole, _ := entriesOf(kept("a"), stored("b", "text"))
-	descr := len(whole) - 16
-	for at := range 16 {
+	ahead, descr := whole[:len(whole)-16], whole[len(whole)-16:]
+	for at := range descr {
 		for _, bit := range []byte{1, 128} {
-			b := []byte(whole)
-			b[descr+at] ^= bit
-			err := api.ErrForm
+			b := []byte(descr)
+			b[at] ^= bit
 			if at >= 4 && at < 8 {
-				err = api.ErrSum
+				cutDescr(t, "the sum", ahead, string(b), 8, api.ErrSum)
+			} else {
+				cutDescr(t, "one byte", ahead, string(b), 16, api.ErrForm)
 			}
-			fails(t, "one byte", string(b), err, 1, true, "text")
-			b[descr+4] ^= 2
-			fails(t, "and the sum", string(b), api.ErrSum, 1, true, "text")
-			fails(t, "and the sum, with the tail", string(b)+"more", api.ErrSum, 1, true, "text")
-			// Not ahead of all its bytes.
-			fails(t, "all but one", string(b[:len(b)-1]), api.OK, 1, true, "text")
+			for also := 4; also < 8; also++ {
+				b[also] ^= 2
+				cutDescr(t, "and the sum", ahead, string(b), 8, api.ErrSum)
+				b[also] ^= 2
+			}
 		}
 	}
 }
@@ -614,6 +627,8 @@ func TestBigHeader(t *testing.T) {
 	fails(t, "numbers of 64 bits", begin+wide, api.ErrForm, 0, true, "text")
 	fails(t, "numbers of 32 bits", begin+small.Descr()+modelTail([]zip.Head{small}), api.ErrForm, 0, true, "text")
 	fails(t, "the sum", begin+"PK\x07\x08abcd"+wide[8:], api.ErrSum, 0, true, "text")
+	fails(t, "the sum alone", begin+"PK\x07\x08abcd", api.ErrSum, 0, true, "text")
+	fails(t, "all but a byte of the sum", begin+"PK\x07\x08abc", api.OK, 0, true, "text")
 	fails(t, "all but one byte", begin+wide[:23], api.OK, 0, true, "text")
 	if a := modelOf(begin); a.events[0].Head != (zip.Head{Name: "a", Time: someTime()}) {
 		t.Error(a.events[0])

@@ -129,15 +129,18 @@ func (p *Parser) take(text string) bool {
 // isOver: are so many bytes too many for the local header?
 func (p *Parser) isOver(n uint64) bool { return n >= tooMany && !p.local.Big() }
 
-// readDescr: the descriptor, as long as the local header asks for.
+// readDescr: the descriptor, as long as the local header asks for. Whatever else it has, a wrong sum is told as soon as the sum is there.
 func (p *Parser) readDescr(s string) (int, api.Errno) {
-	size := len(p.local.Descr())
-	if len(s) < size {
+	if len(s) < sumEnd {
 		return 0, api.ErrMore
 	}
 	want := p.head.Descr()
 	if s[sumBegin:sumEnd] != want[sumBegin:sumEnd] {
 		return 0, api.ErrSum
+	}
+	size := len(p.local.Descr())
+	if len(s) < size {
+		return 0, api.ErrMore
 	}
 	if s[:size] != want {
 		return 0, api.ErrForm
